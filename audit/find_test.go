@@ -65,8 +65,8 @@ func find(t *testing.T, a, b []api.Record) (int, int) {
 	return place, asked
 }
 
-// P19: every length, parted at every place or not at all: how many times is
-// asked, reckoned elsewhere.
+// P19: journals of eleven lengths, parted at every place or not at all: how
+// many times is asked, reckoned elsewhere.
 func TestFindByNumbers(t *testing.T) {
 	r := rand.New(rand.NewSource(11))
 	for _, asks := range [][]int{
@@ -95,7 +95,7 @@ func TestFindByNumbers(t *testing.T) {
 	}
 }
 
-// P19: every length and place again, told by the promise's words; one ask for
+// P19: every length and place, told by the promise's words; one ask for
 // the last place, and no more than each time half of what is left.
 func TestFindByWords(t *testing.T) {
 	r := rand.New(rand.NewSource(12))
@@ -141,7 +141,7 @@ func TestFindOfAnyChains(t *testing.T) {
 		}
 		asked(same)
 	}
-	// Asked are 7, 3, 1 and 0: reckoned by hand.
+	// Asked are 7, 3, 1 and 0: reckoned elsewhere.
 	a, b := pairOf(r, []bool{true, false, true, false, true, false, false, false})
 	if place, asks := find(t, a, b); place != 1 || asks != 4 {
 		t.Errorf("Find = %d, %d", place, asks)
